@@ -10,7 +10,7 @@ const tooMuch = api.MaxNum + 1
 
 // Of a number.
 func Of(base, n int) ([]int, error) {
-	if !isBase(base) || n < 0 || n > api.MaxNum {
+	if !IsBase(base) || n < 0 || n > api.MaxNum {
 		return nil, api.ErrRange
 	}
 	var d [api.MaxWord]int
@@ -58,25 +58,26 @@ func Less(base int, a, b []int) (bool, error) {
 	return x < y, nil
 }
 
-func isBase(base int) bool {
+// IsBase tells whether there is such a base.
+func IsBase(base int) bool {
 	return base >= api.Fib && base <= api.MaxBase
 }
 
-// kinds tells how many digits a base has: Fib has those of 2.
-func kinds(base int) int {
+// Kinds tells how many digits a base has: Fib has those of 2. (Of what is no base it tells nothing.)
+func Kinds(base int) int {
 	return max(base, 2)
 }
 
 // check tells what is wrong with digits, whatever they count.
 func check(base int, d []int) error {
-	if !isBase(base) {
+	if !IsBase(base) {
 		return api.ErrRange
 	}
 	if len(d) > api.MaxWord {
 		return api.ErrFull
 	}
 	for _, x := range d {
-		if x < 0 || x >= kinds(base) {
+		if x < 0 || x >= Kinds(base) {
 			return api.ErrRange
 		}
 	}

@@ -157,6 +157,19 @@ func TestD1Examples(t *testing.T) {
 	wantDigits(t, 4, api.MaxNum, append([]int{1}, make([]int, 20)...)...)
 }
 
+func TestD1Bases(t *testing.T) {
+	for _, base := range bases {
+		if !digit.IsBase(base) || digit.Kinds(base) != kinds(base) {
+			t.Errorf("base %d: got %t %d, want true %d", base, digit.IsBase(base), digit.Kinds(base), kinds(base))
+		}
+	}
+	for _, base := range noBases {
+		if digit.IsBase(base) {
+			t.Errorf("base %d: there is none such", base)
+		}
+	}
+}
+
 func TestD1Numbers(t *testing.T) {
 	source := rand.New(rand.NewSource(1))
 	for _, base := range bases {
