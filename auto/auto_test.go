@@ -354,3 +354,31 @@ func TestA1FreshMemory(t *testing.T) {
 		}
 	}
 }
+
+// TestA1WideAutomata: only the count of states may be greater there; all else is told as ever.
+func TestA1WideAutomata(t *testing.T) {
+	want := func(a api.Auto, want []int, errno api.Errno) {
+		t.Helper()
+		got, err := auto.ReachWide(a)
+		if !slices.Equal(got, want) || plain.Told(err) != errno {
+			t.Errorf("ReachWide of %d states: got %v %v, want %v %v", len(a.Next), got, err, want, errno)
+		}
+	}
+	source := rand.New(rand.NewSource(6))
+	eachShape(func(base, tracks, many int) {
+		for _, states := range []int{1, api.MaxStates, api.MaxStates + 1, 300} {
+			a := wild(source, base, tracks, states)
+			want(a, leads(a), api.OK)
+			a.Next[states-1][many-1] = states
+			want(a, nil, api.ErrRange)
+			a.Next[states-1] = make([]int, many+1)
+			want(a, nil, api.ErrShape)
+			a = still(base, tracks, states)
+			a.Ends = a.Ends[1:]
+			want(a, nil, api.ErrShape)
+		}
+		want(still(base, tracks, 0), nil, api.ErrNone)
+	})
+	want(api.Auto{}, nil, api.ErrRange)
+	want(api.Auto{Base: api.MaxBase, Tracks: api.MaxTracks}, nil, api.ErrFull)
+}

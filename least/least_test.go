@@ -565,3 +565,64 @@ func TestM1M2FreshMemory(t *testing.T) {
 	}
 	wantLeast(t, a, was)
 }
+
+// wantWide: what LeastWide tells.
+func wantWide(t *testing.T, a, want api.Auto, errno api.Errno) {
+	t.Helper()
+	was := clone(a)
+	got, err := least.LeastWide(a)
+	if !equal(got, want) || plain.Told(err) != errno || errno != api.OK && !empty(got) {
+		t.Errorf("LeastWide of %d states: got %v %v, want %v %v", len(a.Next), got, err, want, errno)
+	}
+	if !equal(a, was) {
+		t.Errorf("%v was written into", was)
+	}
+}
+
+// TestM1WideAutomata: an automaton of more than MaxStates has a least one like any other, unless that has more, too.
+func TestM1WideAutomata(t *testing.T) {
+	source := rand.New(rand.NewSource(5))
+	eachShape(func(base, tracks, _ int) {
+		for _, states := range []int{1, 2, 7, api.MaxStates} {
+			a := wild(source, base, tracks, states, 3)
+			of, _ := least.Least(a)
+			wantWide(t, a, of, api.OK)
+			wantWide(t, blown(source, a, api.MaxStates+1), of, api.OK)
+			wantWide(t, blown(source, a, 1000), of, api.OK)
+			most := round(base, tracks, states, states-1)
+			wantWide(t, blown(source, most, 700), most, api.OK)
+		}
+		for _, states := range []int{api.MaxStates + 1, 2 * api.MaxStates, 5000} {
+			wantWide(t, round(base, tracks, states, 0), api.Auto{}, api.ErrFull)
+			wantWide(t, still(base, tracks, states), still(base, tracks, 1), api.OK)
+		}
+	})
+}
+
+func TestM1WrongWideAutomata(t *testing.T) {
+	wantWide(t, api.Auto{}, api.Auto{}, api.ErrRange)
+	wantWide(t, still(2, 1, 0), api.Auto{}, api.ErrNone)
+	for _, states := range []int{3, 300} {
+		a := round(2, 1, states, 0)
+		a.Next[2][1] = states
+		wantWide(t, a, api.Auto{}, api.ErrRange)
+		a.Ends = a.Ends[1:]
+		wantWide(t, a, api.Auto{}, api.ErrShape)
+	}
+}
+
+// TestM2Check: the errors of Same, without looking for a word.
+func TestM2Check(t *testing.T) {
+	none, full := still(2, 1, 0), still(3, 1, api.MaxStates+1)
+	for _, pair := range []struct {
+		a, b  api.Auto
+		errno api.Errno
+	}{
+		{still(2, 1, 1), round(2, 1, 3, 0), api.OK}, {still(2, 1, 1), still(api.Fib, 1, 1), api.ErrShape}, {still(2, 1, 1), still(2, 2, 1), api.ErrShape},
+		{none, full, api.ErrNone}, {full, none, api.ErrFull}, {still(3, 1, 1), none, api.ErrNone},
+	} {
+		if err := least.Check(pair.a, pair.b); plain.Told(err) != pair.errno {
+			t.Errorf("Check(%v, %v): got %v, want %v", pair.a, pair.b, err, pair.errno)
+		}
+	}
+}
