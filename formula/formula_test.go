@@ -863,3 +863,28 @@ func TestFresh(t *testing.T) {
 		}
 	}
 }
+
+// What is trimmed is as it was but for 0s at its end, and memory of its own.
+func TestTrim(t *testing.T) {
+	for _, c := range []struct{ coefs, want []int }{
+		{nil, nil},
+		{[]int{0}, nil},
+		{[]int{0, 0, 0, 0, 0}, nil},
+		{[]int{1}, []int{1}},
+		{[]int{1, 0}, []int{1}},
+		{[]int{0, -2, 0, 3, 0}, []int{0, -2, 0, 3}},
+		{[]int{0, 0, 0, 0, -1}, []int{0, 0, 0, 0, -1}},
+	} {
+		was := slices.Clone(c.coefs)
+		got := formula.Trim(c.coefs)
+		if !slices.Equal(got, c.want) {
+			t.Errorf("Trim(%v): got %v, want %v", c.coefs, got, c.want)
+		}
+		for i := range got {
+			got[i] = 77
+		}
+		if !slices.Equal(c.coefs, was) {
+			t.Errorf("%v was written into: %v", was, c.coefs)
+		}
+	}
+}
