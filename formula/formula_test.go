@@ -888,3 +888,24 @@ func TestTrim(t *testing.T) {
 		}
 	}
 }
+
+// Needed are as many words as the last one that a node uses tells, not those of which a node says nothing.
+func TestNeeds(t *testing.T) {
+	for _, c := range []struct {
+		f    []api.Node
+		want int
+	}{
+		{of(eq(0)), 0},
+		{of(not(), some(0), lt(0, 1)), 0},
+		{of(at(0, 4, 9)), 1},
+		{of(at(2, 0, 0)), 3},
+		{of(like(0, 3, 1, 4)), 2},
+		{of(like(2, 3, 0, 4)), 3},
+		{of(and(), at(1, 0, 0), or(), eq(0), at(0, 0, 0)), 2},
+		{of(all(1), or(), eq(0), like(0, 0, 2, 1)), 3},
+	} {
+		if got := formula.Needs(c.f); got != c.want {
+			t.Errorf("Needs(%v): got %d, want %d", c.f, got, c.want)
+		}
+	}
+}

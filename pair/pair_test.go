@@ -449,6 +449,63 @@ func TestB1ErrorOrder(t *testing.T) {
 	}
 }
 
+// TestWithin: it is as if two calls put three automata together, whatever comes between them.
+func TestWithin(t *testing.T) {
+	source := rand.New(rand.NewSource(4))
+	eachShape(func(base, tracks, many int) {
+		for range 4 {
+			a, b, c := wild(source, base, tracks, 1+source.Intn(7)), wild(source, base, tracks, 1+source.Intn(5)), wild(source, base, tracks, 1+source.Intn(2))
+			was := []api.Auto{clone(a), clone(b), clone(c)}
+			for how := range 16 {
+				got, err := pair.Within(a, b, c, how)
+				if want := both(t, both(t, a, b, how), c, 8); err != nil || !equal(got, want) {
+					t.Errorf("Within(%v, %v, %v, %d): got %v %v, want %v", a, b, c, how, got, err, want)
+				}
+			}
+			if !equal(a, was[0]) || !equal(b, was[1]) || !equal(c, was[2]) {
+				t.Fatalf("%v was written into", was)
+			}
+		}
+		if many == 1 {
+			return
+		}
+		// Among words without odd letters 80 times 80 pairs come to few states, one of them for the other words.
+		a, b, c := turns(base, tracks, api.MaxStates-1, even), turns(base, tracks, api.MaxStates, odd), turns(base, tracks, 2, odd)
+		c.Next[1] = slices.Repeat([]int{1}, many)
+		wantNoBoth(t, a, b, 8, api.ErrFull)
+		got, err := pair.Within(a, b, c, 8)
+		if err != nil || len(got.Next) != api.MaxStates || !equal(got, both(t, a, c, 8)) {
+			t.Errorf("base %d, %d tracks: got %v %v", base, tracks, got, err)
+		}
+		if got, err := pair.Within(b, b, turns(base, tracks, 2, even), 8); !empty(got) || plain.Told(err) != api.ErrFull {
+			t.Errorf("base %d, %d tracks: got %v %v", base, tracks, got, err)
+		}
+	})
+}
+
+// TestWithinWrong: what is wrong with how, then with each automaton, then with what does not go together.
+func TestWithinWrong(t *testing.T) {
+	one, none, full := still(2, 1, 1), still(2, 1, 0), still(2, 1, api.MaxStates+1)
+	for _, c := range []struct {
+		a, b, c api.Auto
+		how     int
+		errno   api.Errno
+	}{
+		{none, full, api.Auto{}, -1, api.ErrRange},
+		{one, one, one, 16, api.ErrRange},
+		{none, full, api.Auto{}, 8, api.ErrNone},
+		{one, full, api.Auto{}, 8, api.ErrFull},
+		{one, one, api.Auto{}, 8, api.ErrRange},
+		{one, one, none, 8, api.ErrNone},
+		{one, one, still(2, 2, 1), 8, api.ErrShape},
+		{one, still(3, 1, 1), one, 8, api.ErrShape},
+	} {
+		if got, err := pair.Within(c.a, c.b, c.c, c.how); !empty(got) || plain.Told(err) != c.errno {
+			t.Errorf("Within(%v, %v, %v, %d): got %v %v, want %v", c.a, c.b, c.c, c.how, got, err, c.errno)
+		}
+	}
+}
+
 // TestB1BehindTheLength: what lies behind a list's length is neither read nor written.
 func TestB1BehindTheLength(t *testing.T) {
 	row := []int{1, 0, 99}

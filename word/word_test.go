@@ -795,6 +795,54 @@ func TestO2Wrong(t *testing.T) {
 	}
 }
 
+// TestAgree: of one number it is as Like of twice the same, and as each output on its own says, also where Like has too many states.
+func TestAgree(t *testing.T) {
+	source := rand.New(rand.NewSource(9))
+	for _, base := range bases {
+		for range 30 {
+			o, p := wild(source, base, 1+source.Intn(7), 2), wild(source, base, 1+source.Intn(7), 2)
+			wasO, wasP := cloneOut(o), cloneOut(p)
+			got := must(t)(word.Agree(o, p))
+			if !equalOut(o, wasO) || !equalOut(p, wasP) {
+				t.Fatalf("%v or %v was written into: %v, %v", wasO, wasP, o, p)
+			}
+			want := must(t)(pair.Both(got, got, 0))
+			for v := range 3 {
+				want = must(t)(pair.Both(want, must(t)(pair.Both(is(t, o, v), is(t, p, v), 8)), 14))
+			}
+			if !equal(got, want) {
+				t.Errorf("Agree(%v, %v): got %v, want %v", o, p, got, want)
+			}
+			if two := like(t, o, p); !equal(got, must(t)(track.Spread(two, 1, []int{0, 0}))) {
+				t.Errorf("Agree(%v, %v): got %v, but of two %v", o, p, got, two)
+			}
+		}
+		nine := sums(base, 0, 1, 2, 3, 4, 5, 6, 7, 8)
+		if got := must(t)(word.Agree(nine, nine)); !equal(got, must(t)(right.All(base, 1))) {
+			t.Errorf("base %d: %v", base, got)
+		}
+		other := sums(base, 1, 0, 2, 3, 4, 5, 6, 7, 8)
+		if wantLike(t, nine, other) <= api.MaxStates {
+			t.Errorf("base %d: Like has not too many states", base)
+		}
+		if got := must(t)(word.Agree(nine, other)); !equal(got, is(t, sums(base, 0, 0, 1, 1, 1, 1, 1, 1, 1), 1)) {
+			t.Errorf("base %d: %v", base, got)
+		}
+		for _, wrong := range []struct {
+			o, p api.Out
+			want api.Errno
+		}{
+			{api.Out{Base: 7}, api.Out{Base: base}, api.ErrRange},
+			{nine, api.Out{Base: base}, api.ErrNone},
+			{nine, sums(base%6+1, 0), api.ErrShape},
+		} {
+			if got, err := word.Agree(wrong.o, wrong.p); !empty(got) || plain.Told(err) != wrong.want {
+				t.Errorf("Agree(%v, %v): got %v %v, want %v", wrong.o, wrong.p, got, err, wrong.want)
+			}
+		}
+	}
+}
+
 func TestO3Morph(t *testing.T) {
 	wantMorph(t, [][]int{{0, 1}, {1, 0}}, []int{0, 1}, api.Out{Base: 2, Next: [][]int{{0, 1}, {1, 0}}, Outs: []int{0, 1}})
 	wantMorph(t, [][]int{{0, 0, 0}}, []int{9}, api.Out{Base: 3, Next: [][]int{{0, 0, 0}}, Outs: []int{9}})
