@@ -879,6 +879,38 @@ func shorter(base int) api.Auto {
 	return a
 }
 
+// TestS1LettersWithout: which letters are left as which.
+func TestS1LettersWithout(t *testing.T) {
+	for _, c := range []struct {
+		base, tracks, track int
+		want                [][]int
+	}{
+		{2, 1, 0, [][]int{{0, 1}}},
+		{6, 1, 0, [][]int{{0, 1, 2, 3, 4, 5}}},
+		{3, 2, 0, [][]int{{0, 3, 6}, {1, 4, 7}, {2, 5, 8}}},
+		{3, 2, 1, [][]int{{0, 1, 2}, {3, 4, 5}, {6, 7, 8}}},
+		{api.Fib, 3, 1, [][]int{{0, 2}, {1, 3}, {4, 6}, {5, 7}}},
+	} {
+		got, err := some.LettersWithout(c.base, c.tracks, c.track)
+		if err != nil || !slices.EqualFunc(got, c.want, slices.Equal) {
+			t.Errorf("LettersWithout(%d, %d, %d): got %v %v, want %v", c.base, c.tracks, c.track, got, err, c.want)
+		}
+	}
+	for _, c := range []struct {
+		base, tracks, track int
+		errno               api.Errno
+	}{
+		{0, 1, 0, api.ErrRange}, {api.MaxBase + 1, 1, 0, api.ErrRange}, {2, -1, 0, api.ErrRange}, {2, api.MaxTracks + 1, 0, api.ErrRange},
+		{6, 3, 3, api.ErrFull}, {2, 0, 0, api.ErrRange}, {2, 2, -1, api.ErrRange}, {2, 2, 2, api.ErrRange},
+		{2, 2, math.MinInt, api.ErrRange}, {2, 2, math.MaxInt, api.ErrRange},
+	} {
+		got, err := some.LettersWithout(c.base, c.tracks, c.track)
+		if got != nil || plain.Told(err) != c.errno {
+			t.Errorf("LettersWithout(%d, %d, %d): got %v %v, want %v", c.base, c.tracks, c.track, got, err, c.errno)
+		}
+	}
+}
+
 // TestS1NoSuchTrack: ahead of too many sets, too.
 func TestS1NoSuchTrack(t *testing.T) {
 	eachShape(func(base, tracks, _ int) {
